@@ -1,6 +1,10 @@
 package impl
 
-import "slices"
+import (
+	"cmp"
+	"slices"
+	"strings"
+)
 
 // Limits of plants.
 const (
@@ -58,10 +62,22 @@ func isNameRune(r rune) bool {
 	return r >= 'a' && r <= 'z' || r >= '0' && r <= '9' || r == '-'
 }
 
+func compareFoes(a, b PlantFoe) int {
+	return cmp.Or(strings.Compare(a.A, b.A), strings.Compare(a.B, b.B))
+}
+
+func comparePlaces(a, b PlantPlace) int {
+	return strings.Compare(a.Name, b.Name)
+}
+
+func compareValves(a, b PlantValve) int {
+	return strings.Compare(a.Name, b.Name)
+}
+
 // ascends says whether each of a list is ahead of the next one, so that none stands there twice.
-func ascends[T any](list []T, ahead func(a, b T) bool) bool {
+func ascends[T any](list []T, compare func(a, b T) int) bool {
 	for i := 1; i < len(list); i++ {
-		if !ahead(list[i-1], list[i]) {
+		if compare(list[i-1], list[i]) >= 0 {
 			return false
 		}
 	}
@@ -77,7 +93,7 @@ func (p Plant) stuffsOk() bool {
 			return false
 		}
 	}
-	return ascends(p.Stuffs, func(a, b string) bool { return a < b })
+	return ascends(p.Stuffs, strings.Compare)
 }
 
 func (p Plant) foesOk() bool {
@@ -89,7 +105,7 @@ func (p Plant) foesOk() bool {
 			return false
 		}
 	}
-	return ascends(p.Foes, func(a, b PlantFoe) bool { return a.A < b.A || a.A == b.A && a.B < b.B })
+	return ascends(p.Foes, compareFoes)
 }
 
 func (p Plant) placesOk() bool {
@@ -101,7 +117,7 @@ func (p Plant) placesOk() bool {
 			return false
 		}
 	}
-	return ascends(p.Places, func(a, b PlantPlace) bool { return a.Name < b.Name })
+	return ascends(p.Places, comparePlaces)
 }
 
 func (p Plant) valvesOk() bool {
@@ -113,7 +129,7 @@ func (p Plant) valvesOk() bool {
 			return false
 		}
 	}
-	return ascends(p.Valves, func(a, b PlantValve) bool { return a.Name < b.Name })
+	return ascends(p.Valves, compareValves)
 }
 
 func (p Plant) hasPlace(name string) bool {
