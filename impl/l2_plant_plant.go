@@ -136,12 +136,22 @@ func (p Plant) hasPlace(name string) bool {
 	return slices.ContainsFunc(p.Places, func(x PlantPlace) bool { return x.Name == name })
 }
 
-// foePairs has each pair in both orders, as foes go both ways.
-func (p Plant) foePairs() map[PlantFoe]int {
-	pairs := map[PlantFoe]int{}
+// foePairs has each pair in both orders, as foes go both ways; they do in all chapters.
+type foePairs map[PlantFoe]int
+
+func (pairs foePairs) add(a, b string) {
+	pairs[PlantFoe{A: a, B: b}]++
+	pairs[PlantFoe{A: b, B: a}]++
+}
+
+func (pairs foePairs) has(a, b string) bool {
+	return pairs[PlantFoe{A: a, B: b}] > 0
+}
+
+func (p Plant) foesBothWays() foePairs {
+	pairs := foePairs{}
 	for _, f := range p.Foes {
-		pairs[f]++
-		pairs[PlantFoe{A: f.B, B: f.A}]++
+		pairs.add(f.A, f.B)
 	}
 	return pairs
 }
@@ -159,5 +169,5 @@ func PlantValid(p Plant) bool {
 
 // PlantFoes says whether two stuffs must not meet.
 func PlantFoes(p Plant, a string, b string) bool {
-	return PlantValid(p) && p.foePairs()[PlantFoe{A: a, B: b}] > 0
+	return PlantValid(p) && p.foesBothWays().has(a, b)
 }

@@ -176,28 +176,30 @@ func named(text string) map[string]impl.Plant {
 	}
 }
 
-func checkName(t *testing.T, text string, want bool) {
-	t.Helper()
-	for what, p := range named(text) {
-		checkValid(t, what+" "+strconv.Quote(text), p, want)
+// eachText tells texts that are names, and texts that just are none.
+func eachText(tell func(text string, isName bool)) {
+	for _, text := range []string{"a", "0", "-", "a-z", "--------", "abcdefgh", "01234567", "zzzzzzzz", "good"} {
+		tell(text, true)
+	}
+	for _, text := range []string{"", "abcdefghi", "---------", "Keg", "a b", " a", "a ", "a_b", "a\n", "é", "éééé", "a\u0430", "\ufffd", strings.Repeat("a", 10000)} {
+		tell(text, false)
+	}
+	for c := range 256 {
+		isName := c >= 'a' && c <= 'z' || c >= '0' && c <= '9' || c == '-'
+		b := string([]byte{byte(c)})
+		for _, text := range []string{b, "a" + b, b + "a", "aaaaaaa" + b} {
+			tell(text, isName)
+		}
+		tell("aaaaaaaa"+b, false)
 	}
 }
 
 func TestNames(t *testing.T) {
-	for _, text := range []string{"a", "0", "-", "a-z", "--------", "abcdefgh", "01234567", "good"} {
-		checkName(t, text, true)
-	}
-	for _, text := range []string{"", "abcdefghi", "---------", "Keg", "a b", " a", "a ", "a_b", "a\n", "é", "éééé", "a\u0430", "\ufffd", strings.Repeat("a", 10000)} {
-		checkName(t, text, false)
-	}
-	for c := range 256 {
-		ok := c >= 'a' && c <= 'z' || c >= '0' && c <= '9' || c == '-'
-		b := string([]byte{byte(c)})
-		for _, text := range []string{b, "a" + b, b + "a", "aaaaaaa" + b} {
-			checkName(t, text, ok)
+	eachText(func(text string, isName bool) {
+		for what, p := range named(text) {
+			checkValid(t, what+" "+strconv.Quote(text), p, isName)
 		}
-		checkName(t, "aaaaaaaa"+b, false)
-	}
+	})
 }
 
 func TestCaps(t *testing.T) {
