@@ -148,6 +148,18 @@ func (pairs foePairs) has(a, b string) bool {
 	return pairs[PlantFoe{A: a, B: b}] > 0
 }
 
+// meet says whether one of these stuffs and one of those are foes.
+func (pairs foePairs) meet(these, those []string) bool {
+	for _, one := range these {
+		for _, other := range those {
+			if pairs.has(one, other) {
+				return true
+			}
+		}
+	}
+	return false
+}
+
 func (p Plant) foesBothWays() foePairs {
 	pairs := foePairs{}
 	for _, f := range p.Foes {
