@@ -295,14 +295,12 @@ func TestGroupsOfPlantsThatAreNotValid(t *testing.T) {
 	}
 }
 
-// textsIn is all texts that stand anywhere in a value of lists and structs.
-func textsIn(value any) []string {
-	var all []string
+// eachWithin tells a value, and all that stands anywhere in its lists and structs.
+func eachWithin(value any, tell func(v reflect.Value)) {
 	var walk func(v reflect.Value)
 	walk = func(v reflect.Value) {
+		tell(v)
 		switch v.Kind() {
-		case reflect.String:
-			all = append(all, v.String())
 		case reflect.Slice:
 			for i := range v.Len() {
 				walk(v.Index(i))
@@ -314,6 +312,16 @@ func textsIn(value any) []string {
 		}
 	}
 	walk(reflect.ValueOf(value))
+}
+
+// textsIn is all texts that stand anywhere in a value of lists and structs.
+func textsIn(value any) []string {
+	var all []string
+	eachWithin(value, func(v reflect.Value) {
+		if v.Kind() == reflect.String {
+			all = append(all, v.String())
+		}
+	})
 	return all
 }
 

@@ -483,23 +483,11 @@ func TestPlaysOfVeryManyEvents(t *testing.T) {
 // listsIn is where the lists of a value lie, with all the room behind their ends.
 func listsIn(value any) [][2]uintptr {
 	var all [][2]uintptr
-	var walk func(v reflect.Value)
-	walk = func(v reflect.Value) {
-		switch v.Kind() {
-		case reflect.Slice:
-			if v.Cap() > 0 {
-				all = append(all, [2]uintptr{v.Pointer(), v.Pointer() + uintptr(v.Cap())*v.Type().Elem().Size()})
-			}
-			for i := range v.Len() {
-				walk(v.Index(i))
-			}
-		case reflect.Struct:
-			for i := range v.NumField() {
-				walk(v.Field(i))
-			}
+	eachWithin(value, func(v reflect.Value) {
+		if v.Kind() == reflect.Slice && v.Cap() > 0 {
+			all = append(all, [2]uintptr{v.Pointer(), v.Pointer() + uintptr(v.Cap())*v.Type().Elem().Size()})
 		}
-	}
-	walk(reflect.ValueOf(value))
+	})
 	return all
 }
 
