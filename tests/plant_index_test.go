@@ -424,15 +424,8 @@ func TestIndexesKeepNothing(t *testing.T) {
 	}
 }
 
-func TestGoroutinesOfIndexesHaveEnded(t *testing.T) {
-	before := runtime.NumGoroutine()
-	full, wrong := fullPlant(), spoilt()
-	for i := range 500 {
-		x := impl.PlantIndexOf(full, namesOfValves(full))
-		impl.PlantTurn(full, x, "v15", i%2 == 0)
-		impl.PlantIndexOf(impl.Plant{}, nil)
-		impl.PlantTurn(wrong[i%len(wrong)], x, "a", true)
-	}
+func checkNoMoreGoroutines(t *testing.T, before int) {
+	t.Helper()
 	// One that has done its last work may still be on its way out.
 	for range 1000 {
 		if runtime.NumGoroutine() <= before {
@@ -443,19 +436,38 @@ func TestGoroutinesOfIndexesHaveEnded(t *testing.T) {
 	t.Errorf("there were %d goroutines, and are %d", before, runtime.NumGoroutine())
 }
 
-func TestIndexesHoweverGoroutinesRun(t *testing.T) {
+func TestGoroutinesOfIndexesHaveEnded(t *testing.T) {
+	before := runtime.NumGoroutine()
+	full, wrong := fullPlant(), spoilt()
+	for i := range 500 {
+		x := impl.PlantIndexOf(full, namesOfValves(full))
+		impl.PlantTurn(full, x, "v15", i%2 == 0)
+		impl.PlantIndexOf(impl.Plant{}, nil)
+		impl.PlantTurn(wrong[i%len(wrong)], x, "a", true)
+	}
+	checkNoMoreGoroutines(t, before)
+}
+
+// howeverGoroutinesRun checks again and again, with one and with many of them at once.
+func howeverGoroutinesRun(check func()) {
 	defer runtime.GOMAXPROCS(runtime.GOMAXPROCS(0))
-	p := fullPlant()
-	open := pick(namesOfValves(p), 0x2d5b7)
-	want, less := indexByDefinition(p, open), indexByDefinition(p, turned(open, "v10", false))
 	for _, at := range []int{1, 2, 3, 16} {
 		runtime.GOMAXPROCS(at)
 		for range 200 {
-			checkIndexOf(t, p, open, want)
-			checkTurn(t, p, want, "v10", false, less)
-			checkTurn(t, p, less, "v10", true, want)
+			check()
 		}
 	}
+}
+
+func TestIndexesHoweverGoroutinesRun(t *testing.T) {
+	p := fullPlant()
+	open := pick(namesOfValves(p), 0x2d5b7)
+	want, less := indexByDefinition(p, open), indexByDefinition(p, turned(open, "v10", false))
+	howeverGoroutinesRun(func() {
+		checkIndexOf(t, p, open, want)
+		checkTurn(t, p, want, "v10", false, less)
+		checkTurn(t, p, less, "v10", true, want)
+	})
 }
 
 func TestIndexesOfManyCallersAtOnce(t *testing.T) {
