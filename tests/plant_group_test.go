@@ -296,28 +296,24 @@ func TestGroupsOfPlantsThatAreNotValid(t *testing.T) {
 }
 
 // eachWithin tells a value, and all that stands anywhere in its lists and structs.
-func eachWithin(value any, tell func(v reflect.Value)) {
-	var walk func(v reflect.Value)
-	walk = func(v reflect.Value) {
-		tell(v)
-		switch v.Kind() {
-		case reflect.Slice:
-			for i := range v.Len() {
-				walk(v.Index(i))
-			}
-		case reflect.Struct:
-			for i := range v.NumField() {
-				walk(v.Field(i))
-			}
+func eachWithin(v reflect.Value, tell func(v reflect.Value)) {
+	tell(v)
+	switch v.Kind() {
+	case reflect.Slice:
+		for i := range v.Len() {
+			eachWithin(v.Index(i), tell)
+		}
+	case reflect.Struct:
+		for i := range v.NumField() {
+			eachWithin(v.Field(i), tell)
 		}
 	}
-	walk(reflect.ValueOf(value))
 }
 
 // textsIn is all texts that stand anywhere in a value of lists and structs.
 func textsIn(value any) []string {
 	var all []string
-	eachWithin(value, func(v reflect.Value) {
+	eachWithin(reflect.ValueOf(value), func(v reflect.Value) {
 		if v.Kind() == reflect.String {
 			all = append(all, v.String())
 		}

@@ -483,7 +483,7 @@ func TestPlaysOfVeryManyEvents(t *testing.T) {
 // listsIn is where the lists of a value lie, with all the room behind their ends.
 func listsIn(value any) [][2]uintptr {
 	var all [][2]uintptr
-	eachWithin(value, func(v reflect.Value) {
+	eachWithin(reflect.ValueOf(value), func(v reflect.Value) {
 		if v.Kind() == reflect.Slice && v.Cap() > 0 {
 			all = append(all, [2]uintptr{v.Pointer(), v.Pointer() + uintptr(v.Cap())*v.Type().Elem().Size()})
 		}
