@@ -799,9 +799,26 @@ func TestClaimBooksOfWhichTwoThingsAreChanged(t *testing.T) {
 	}
 }
 
+// someClaimWant is a want of few places, valves and stuffs.
+func someClaimWant(dice *rand.Rand, number int) impl.ClaimWant {
+	few := func(names ...string) []string { return pick(names, dice.Intn(1<<len(names))&dice.Intn(1<<len(names))) }
+	w := impl.ClaimWant{Number: number, Kind: 1 + dice.Intn(3), Shuts: few("u", "v", "w", "x")}
+	if w.Kind == impl.ClaimMove {
+		w.Stuffs = append([]string{"a"}, pick([]string{"b", "c", "d"}, dice.Intn(8))...)
+		w.Opens = slices.DeleteFunc(few("u", "v", "w", "x"), func(v string) bool { return slices.Contains(w.Shuts, v) })
+	}
+	for _, name := range few("p", "q", "r", "s") {
+		u := impl.ClaimUse{Name: name, Role: impl.ClaimBy}
+		if w.Kind == impl.ClaimMove && dice.Intn(4) > 0 {
+			u.Role, u.Amount = 1+dice.Intn(2), 1+dice.Intn(3)
+		}
+		w.Uses = append(w.Uses, u)
+	}
+	return w
+}
+
 // someClaimBook is a book in which all is of few names and numbers, so that much of it meets.
 func someClaimBook(dice *rand.Rand) impl.ClaimBook {
-	some := func(names ...string) []string { return pick(names, dice.Intn(1<<len(names))) }
 	few := func(names ...string) []string { return pick(names, dice.Intn(1<<len(names))&dice.Intn(1<<len(names))) }
 	b := impl.ClaimBook{Foes: pick(claimFoes("a/b", "a/c", "c/d"), dice.Intn(8)), Valves: []string{"u", "v", "w", "x"}, Seen: 3 + dice.Intn(9)}
 	for _, name := range []string{"p", "q", "r", "s"} {
@@ -812,18 +829,7 @@ func someClaimBook(dice *rand.Rand) impl.ClaimBook {
 		}
 	}
 	for i := range dice.Intn(4) {
-		w := impl.ClaimWant{Number: 1 + 3*i, Kind: 1 + dice.Intn(3), Shuts: few("u", "v", "w", "x")}
-		if w.Kind == impl.ClaimMove {
-			w.Stuffs = append([]string{"a"}, some("b", "c", "d")...)
-			w.Opens = slices.DeleteFunc(few("u", "v", "w", "x"), func(v string) bool { return slices.Contains(w.Shuts, v) })
-		}
-		for _, name := range few("p", "q", "r", "s") {
-			u := impl.ClaimUse{Name: name, Role: impl.ClaimBy}
-			if w.Kind == impl.ClaimMove && dice.Intn(4) > 0 {
-				u.Role, u.Amount = 1+dice.Intn(2), 1+dice.Intn(3)
-			}
-			w.Uses = append(w.Uses, u)
-		}
+		w := someClaimWant(dice, 1+3*i)
 		b.Parts = append(b.Parts, impl.ClaimPart{Want: w, Stopped: dice.Intn(2) == 0})
 	}
 	return b
