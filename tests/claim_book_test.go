@@ -853,33 +853,38 @@ func TestManyClaimBooks(t *testing.T) {
 	}
 }
 
+// checkOnceAndNeverMet is promises 15 and 16 of one book.
+func checkOnceAndNeverMet(t *testing.T, b impl.ClaimBook) {
+	t.Helper()
+	for i, p := range b.Parts {
+		for j, q := range b.Parts {
+			for _, u := range p.Want.Uses {
+				if i != j && slices.ContainsFunc(q.Want.Uses, func(x impl.ClaimUse) bool { return x.Name == u.Name }) {
+					t.Errorf("%s is used by two: %+v", u.Name, b)
+				}
+			}
+			for _, v := range p.Want.Opens {
+				if i != j && (slices.Contains(q.Want.Opens, v) || slices.Contains(q.Want.Shuts, v)) {
+					t.Errorf("%s is opened by one, and by another one, too, or kept shut: %+v", v, b)
+				}
+			}
+		}
+	}
+	for _, s := range b.Spots {
+		for _, f := range b.Foes {
+			if slices.Contains(s.May, f.A) && slices.Contains(s.May, f.B) {
+				t.Errorf("foes may be left in %s: %+v", s.Name, b)
+			}
+		}
+	}
+}
+
 // Promises 15 and 16, of all books that are ok.
 func TestNothingIsClaimedTwiceAndNoFoesMayBeLeft(t *testing.T) {
 	check := func(b impl.ClaimBook) {
 		t.Helper()
-		if !impl.ClaimBookOk(b) {
-			return
-		}
-		for i, p := range b.Parts {
-			for j, q := range b.Parts {
-				for _, u := range p.Want.Uses {
-					if i != j && slices.ContainsFunc(q.Want.Uses, func(x impl.ClaimUse) bool { return x.Name == u.Name }) {
-						t.Errorf("%s is used by two: %+v", u.Name, b)
-					}
-				}
-				for _, v := range p.Want.Opens {
-					if i != j && (slices.Contains(q.Want.Opens, v) || slices.Contains(q.Want.Shuts, v)) {
-						t.Errorf("%s is opened by one, and by another one, too, or kept shut: %+v", v, b)
-					}
-				}
-			}
-		}
-		for _, s := range b.Spots {
-			for _, f := range b.Foes {
-				if slices.Contains(s.May, f.A) && slices.Contains(s.May, f.B) {
-					t.Errorf("foes may be left in %s: %+v", s.Name, b)
-				}
-			}
+		if impl.ClaimBookOk(b) {
+			checkOnceAndNeverMet(t, b)
 		}
 	}
 	dice := rand.New(rand.NewSource(15))
