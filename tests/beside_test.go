@@ -49,24 +49,33 @@ func functions(t *testing.T) []*ast.FuncDecl {
 	return all
 }
 
-// No answer may come of the table that init fills, and yet it has to be read by what the program gives out.
-func TestReadersStandBesideTheAnswers(t *testing.T) {
+// checkStandsBeside looks at a table that init fills: no answer may come of it, and yet it has to be read by what the program gives out.
+func checkStandsBeside(t *testing.T, table string) {
+	t.Helper()
 	filled, read := 0, 0
 	for _, f := range functions(t) {
-		all, left := uses(f.Body, "plantReaders")
+		all, left := uses(f.Body, table)
 		switch {
 		case f.Name.Name == "init":
 			filled += all
 		case f.Name.IsExported():
 			read += left
 			if all != left {
-				t.Errorf("%s goes on with plantReaders", f.Name.Name)
+				t.Errorf("%s goes on with %s", f.Name.Name, table)
 			}
 		case all > 0:
-			t.Errorf("%s reads plantReaders", f.Name.Name)
+			t.Errorf("%s reads %s", f.Name.Name, table)
 		}
 	}
 	if filled == 0 || read == 0 {
-		t.Errorf("plantReaders is filled in %d places and read in %d", filled, read)
+		t.Errorf("%s is filled in %d places and read in %d", table, filled, read)
 	}
+}
+
+func TestReadersStandBesideTheAnswers(t *testing.T) {
+	checkStandsBeside(t, "plantReaders")
+}
+
+func TestSettlersStandBesideTheAnswers(t *testing.T) {
+	checkStandsBeside(t, "settlers")
 }
