@@ -79,3 +79,7 @@ func TestReadersStandBesideTheAnswers(t *testing.T) {
 func TestSettlersStandBesideTheAnswers(t *testing.T) {
 	checkStandsBeside(t, "settlers")
 }
+
+func TestSayersStandBesideTheAnswers(t *testing.T) {
+	checkStandsBeside(t, "masterSays")
+}
