@@ -640,3 +640,63 @@ func TestWhatBreaksAWorldThatEventsHaveLedTo(t *testing.T) {
 		})
 	}
 }
+
+// checkApart asks for promise 25 alone.
+func checkApart(t *testing.T, what string, w impl.CtlWorld) bool {
+	t.Helper()
+	joined := vesselsJoined(w)
+	isApart := impl.CtlWorldOk(w) && slices.Max(joined) <= 2
+	if !isApart {
+		t.Errorf("%s: 25, groups of %v vessels, %q being open: %+v", what, joined, impl.CtlOpen(w), w)
+	}
+	return isApart
+}
+
+// roundsUnheard lets rounds pass like calm ones, but for what is said to a station, or by it, under a number: that is lost.
+func roundsUnheard(t *testing.T, what string, w impl.CtlWorld, station string, number, rounds int) (impl.CtlWorld, bool) {
+	t.Helper()
+	isApart := true
+	happen := func(e impl.CtlEvent) {
+		if isApart {
+			w = impl.CtlStep(w, e)
+			isApart = checkApart(t, what, w)
+		}
+	}
+	for range rounds {
+		for at := range len(w.Stations) + 1 {
+			happen(happens(impl.CtlWrites, at, 0))
+		}
+		for range len(w.Radio) {
+			isLost := isApart && w.Radio[0].Station == station && w.Radio[0].Number == number
+			happen(happens(choose(isLost, impl.CtlLoses, impl.CtlBrings), 0, 0))
+		}
+		happen(happens(impl.CtlSays, 0, 0))
+	}
+	return w, isApart
+}
+
+// Promise 25: while a station keeps its valve open, as it does not hear that it is to stop, nothing else is joined with what lies behind it.
+func TestVesselsStayApartWhileAStationDoesNotHear(t *testing.T) {
+	stillOpen := map[string]string{"e": "p", "w": "q"}
+	for station, valve := range stillOpen {
+		w := begun(yard(), fill("l1", "ale", "a", 5), fill("m1", "malt", "c", 2), fill("m2", "malt", "d", 3))
+		w = impl.CtlStep(w, impl.CtlEvent{Kind: impl.CtlMoves, Route: route("a p j q b"), Amount: 4})
+		w = impl.CtlCalm(w, 4)
+		checkOpened(t, "moving", w, "p", "q")
+		w = impl.CtlStep(impl.CtlStep(w, flows(1, "b")), happens(impl.CtlHalts, 0, 1))
+		w, _ = roundsUnheard(t, station+" does not hear", w, station, 1, 6)
+		checkOpened(t, station+" does not hear", w, valve)
+		beside, refused := 0, 0
+		for _, r := range allRoutes(w.Plant) {
+			what := fmt.Sprint(station, " does not hear, and then ", r)
+			after, isApart := roundsUnheard(t, what, impl.CtlStep(w, impl.CtlEvent{Kind: impl.CtlMoves, Route: r, Amount: 1}), station, 1, 6)
+			if isApart {
+				beside += choose(len(impl.CtlOpen(after)) > 1, 1, 0)
+				refused += choose(after.Mind.Last == 1, 1, 0)
+			}
+		}
+		if beside == 0 || refused == 0 {
+			t.Errorf("%s: %d went beside it, %d were refused", station, beside, refused)
+		}
+	}
+}
