@@ -49,7 +49,7 @@ const recTailWords = 6
 // recForm reads what stands between the word of a form and the tail; false, if that is not of the form.
 type recForm func(args []string) (RecPhase, bool)
 
-// recForms has the forms by their words.
+// recForms has the forms by their words, as formOf tells them; no answer hangs on it.
 var recForms map[string]recForm
 
 func init() {
@@ -60,6 +60,23 @@ func init() {
 		wordClean: readClean,
 		wordTest:  readTest,
 	}
+}
+
+// formOf is the form of a word, or nil, if this is the word of none.
+func formOf(word string) recForm {
+	switch word {
+	case wordFill:
+		return readFill
+	case wordMove:
+		return readMove
+	case wordHold:
+		return readHold
+	case wordClean:
+		return readClean
+	case wordTest:
+		return readTest
+	}
+	return nil
 }
 
 func readFill(args []string) (RecPhase, bool) {
@@ -119,8 +136,8 @@ func readPhase(words []string) (RecPhase, bool) {
 	if tailAt < 2 {
 		return RecPhase{}, false
 	}
-	form, ok := recForms[words[1]]
-	if !ok {
+	form := formOf(words[1])
+	if form == nil {
 		return RecPhase{}, false
 	}
 	p, ok := form(words[2:tailAt])
@@ -212,6 +229,8 @@ func readRecipe(text string) ([]RecPhase, error) {
 
 // RecParse reads a recipe.
 func RecParse(text string) ([]RecPhase, RecFault) {
+	// The table stands beside formOf: it is read here, and what is answered does not hang on it.
+	_ = recForms
 	r, err := readRecipe(text)
 	var fault textFault
 	if errors.As(err, &fault) {

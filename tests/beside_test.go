@@ -83,3 +83,7 @@ func TestSettlersStandBesideTheAnswers(t *testing.T) {
 func TestSayersStandBesideTheAnswers(t *testing.T) {
 	checkStandsBeside(t, "masterSays")
 }
+
+func TestFormsStandBesideTheAnswers(t *testing.T) {
+	checkStandsBeside(t, "recForms")
+}
