@@ -9,7 +9,7 @@ import (
 	"loop.example/malthouse/impl"
 )
 
-// checkPromise42 looks at what is refused with 5 or 6: another one has some of it; or no order of all fits what would be, and who asks is not one that can have all they need, nobody being gone.
+// checkPromise42 looks at what is refused with 5 or 6: another one has some of it; or no order of all fits what would be, and who asks is not of those who can have all they need.
 func checkPromise42(t *testing.T, p plea, code int) {
 	t.Helper()
 	if code == 5 && !slices.ContainsFunc(p.Names, func(thing string) bool {
@@ -27,7 +27,7 @@ func checkPromise42(t *testing.T, p plea, code int) {
 			t.Errorf("behind it %q would fit, and %q is refused %q: %+v", order, p.Name, p.Names, p.Book)
 		}
 	}
-	if canByDefinition(p.Book, p.Name, nil) {
+	if slices.Contains(impl.ShareMoves(p.Book), p.Name) {
 		t.Errorf("%q can have all they need, and are refused %q: %+v", p.Name, p.Names, p.Book)
 	}
 }
@@ -69,11 +69,12 @@ func notePromised(t *testing.T, met counts, p plea) {
 	met.note(p.Call.with(code)+choose(impl.ShareSafe(p.Book), ", safe", ", not safe"), true)
 }
 
-// checkWhoCanIsGiven says that whoever can have all they need, nobody being gone, is given any of it.
+// checkWhoCanIsGiven says that whoever can have all they need is given any of it.
 func checkWhoCanIsGiven(t *testing.T, met counts, b impl.ShareBook) {
 	t.Helper()
+	who := impl.ShareMoves(b)
 	for _, one := range b.Batches {
-		if !canByDefinition(b, one.Name, nil) {
+		if !slices.Contains(who, one.Name) {
 			continue
 		}
 		for bits := range 1 << len(one.Needs) {
@@ -158,30 +159,37 @@ func rowPlea(dice *rand.Rand, b impl.ShareBook) plea {
 	return plea{b, shareAsk, one.Name, pick(one.Needs, dice.Intn(1<<len(one.Needs))&dice.Intn(1<<len(one.Needs)))}
 }
 
-// From things alone on all that comes is safe, and the promises hold of each call.
-func TestPromisesOfRowsOfCalls(t *testing.T) {
-	met := besideEachOther(8, func(i int) counts {
-		dice, met := rand.New(rand.NewSource(int64(430+i))), counts{}
+// drawnRows lets rows of calls be made from things alone, and counts their codes.
+func drawnRows(seed int64, call func(met counts, p plea) (impl.ShareBook, int)) counts {
+	return besideEachOther(8, func(i int) counts {
+		dice, met := rand.New(rand.NewSource(seed+int64(i))), counts{}
 		for range 40 {
 			b := impl.ShareBook{Things: numbered("t", 1+dice.Intn(8))}
 			for range 200 {
 				p := rowPlea(dice, b)
-				want, wanted := answerByDefinition(p)
-				after, code := checkPromisedOfPlea(t, p)
-				if code != wanted || !sameShare(after, want) || !isSafeByDefinition(after) {
-					t.Errorf("%+v: it is %+v, %d; want %+v, %d", p, after, code, want, wanted)
-					break
-				}
+				after, code := call(met, p)
 				met.note(p.Call.with(code), true)
 				b = after
 			}
 		}
 		return met
 	})
+}
+
+// From things alone on all that comes is safe, and the promises hold of each call.
+func TestPromisesOfRowsOfCalls(t *testing.T) {
+	met := drawnRows(430, func(_ counts, p plea) (impl.ShareBook, int) {
+		want, wanted := answerByDefinition(p)
+		after, code := checkPromisedOfPlea(t, p)
+		if code != wanted || !sameShare(after, want) || !isSafeByDefinition(after) {
+			t.Errorf("%+v: it is %+v, %d; want %+v, %d", p, after, code, want, wanted)
+		}
+		return after, code
+	})
 	checkCodes(t, met, 20)
 }
 
-// If again and again the first that can have all they need asks for all of it, and goes, all go.
+// If each asks for all they need, and goes, in the order that is told, all go.
 func TestAllGoFromWhatIsSafe(t *testing.T) {
 	dice := rand.New(rand.NewSource(44))
 	safe := 0
