@@ -690,36 +690,20 @@ func TestDrawnHousesThatWereChanged(t *testing.T) {
 	checkCounted(t, counted, 500, "ok", "not ok")
 }
 
-// whoBegins is a house in which a batch has come last, waiting at its first phase with the things of all its slots needed.
-func whoBegins(h impl.RunHouse, b impl.RunBatch) (impl.RunHouse, int) {
-	h = copied(h)
-	h.Last++
-	b.At, b.Since, b.Start = b.Recipe[0].Name, -1, h.Last
-	share, code := impl.ShareEnter(h.Share, b.Name, impl.RunThings(b, b.At))
-	h.Share, h.Batches = share, append(h.Batches, b)
-	return h, code
-}
-
-// Promise 49, of what is told of who has come: it needs the things of all slots, and what is left is more by all of its recipe.
+// Promise 49, in houses as they need not come about.
 func TestWhoBegins(t *testing.T) {
 	dice := rand.New(rand.NewSource(49))
 	counted := counts{}
 	for range 2000 {
 		h := drawnHouse(dice)
-		b := drawnBatch(dice, "new", h.Share.Things)
-		var things []string
-		for _, one := range b.Slots {
-			things = append(things, one.Thing)
-		}
-		slices.Sort(things)
-		checkThings(t, "who begins", b, b.Recipe[0].Name, things...)
-		after, code := whoBegins(h, b)
+		d := startOf(h, drawnBatch(dice, "new", h.Share.Things))
+		after, code := d.answer()
 		if code != 0 {
-			counted.note("too many", true)
+			counted.note("too many", code == 4)
 			continue
 		}
 		checkHouse(t, "begun", after, true)
-		checkLeft(t, "begun", after, impl.RunLeft(h)+impl.RecBound(b.Recipe, b.Recipe[0].Name))
+		checkPromise49(t, d, after)
 		counted.note("beside who goes on", slices.ContainsFunc(h.Batches, func(b impl.RunBatch) bool { return b.Since >= 0 }))
 		counted.note("alone", len(h.Batches) == 0)
 		counted.note("needs what somebody has", len(impl.ShareWaits(after.Share, "new")) > 0)
