@@ -87,3 +87,7 @@ func TestSayersStandBesideTheAnswers(t *testing.T) {
 func TestFormsStandBesideTheAnswers(t *testing.T) {
 	checkStandsBeside(t, "recForms")
 }
+
+func TestGoingWellStandsBesideTheAnswers(t *testing.T) {
+	checkStandsBeside(t, "canGoWell")
+}
