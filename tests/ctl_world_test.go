@@ -791,9 +791,12 @@ func plantOfAWorld(dice *rand.Rand) impl.Plant {
 	}
 }
 
-// drawnWorld draws one that is ok, as it may not come about.
 func drawnWorld(dice *rand.Rand) impl.CtlWorld {
-	p := plantOfAWorld(dice)
+	return drawnWorldOf(dice, plantOfAWorld(dice))
+}
+
+// drawnWorldOf draws one of a plant that is ok, as it may not come about.
+func drawnWorldOf(dice *rand.Rand, p impl.Plant) impl.CtlWorld {
 	w := begun(p)
 	for i, v := range w.Stuff.Vessels {
 		if dice.Intn(3) > 0 {

@@ -592,12 +592,17 @@ func TestAllSmallHouses(t *testing.T) {
 	checkCounted(t, counted, 50, "2 ok", "not ok")
 }
 
-// drawnHouse draws one that is ok: who goes on has what it needs for that, if it can.
 func drawnHouse(dice *rand.Rand) impl.RunHouse {
-	h := impl.RunHouse{Now: dice.Intn(100001), Share: impl.ShareBook{Things: numbered("t", 6+dice.Intn(3))}}
+	now := dice.Intn(100001)
+	return drawnHouseOf(dice, now, numbered("t", 6+dice.Intn(3)), drawnBatch)
+}
+
+// drawnHouseOf draws one that is ok, of batches that are drawn: who goes on has what it needs for that, if it can.
+func drawnHouseOf(dice *rand.Rand, now int, things []string, drawn func(dice *rand.Rand, name string, things []string) impl.RunBatch) impl.RunHouse {
+	h := impl.RunHouse{Now: now, Share: impl.ShareBook{Things: things}}
 	names := []string{"a", "b", "c", "d", "e", "f", "g"}
 	for _, i := range dice.Perm(len(names))[:dice.Intn(6)] {
-		b := drawnBatch(dice, names[i], h.Share.Things)
+		b := drawn(dice, names[i], h.Share.Things)
 		needs, own := thingsByDefinition(b, b.At), ownByDefinition(b)
 		if slices.Contains(needs, "") {
 			b.At, b.Since = b.Recipe[0].Name, -1
